@@ -252,9 +252,9 @@ func TestDivAndMod(t *testing.T) {
 			}
 			rest, restCode := Mod(a, b)
 			p, mulCode := Mul(q, b)
-			whole, addCode := Add(p, rest)
-			if restCode != api.OK || mulCode != api.OK || addCode != api.OK || whole != a {
-				t.Fatalf("%d by %d: quotient %d, rest %d make %d", a, b, q, rest, whole)
+			made, addCode := Add(p, rest)
+			if restCode != api.OK || mulCode != api.OK || addCode != api.OK || made != a {
+				t.Fatalf("%d by %d: quotient %d, rest %d make %d", a, b, q, rest, made)
 			}
 		}
 	}
