@@ -6,21 +6,18 @@ import (
 	"commonhold/api"
 )
 
-// nowhere: the address of no slot.
-const nowhere = -1
-
-// unit: slots that are written once, and what it takes to go on with them. It has nothing of the memory of its jobs.
-type unit struct {
+// Unit: slots that are written once, and what it takes to go on with them; the zero one is at its beginning. It has nothing of the memory of its jobs.
+type Unit struct {
 	slots [api.MaxAddr]content
 	epoch int
-	// fresh: the address to which the job just ahead stored, or nowhere: only there can a crash undo something.
+	// fresh: to which slot the job just ahead stored, counted from 1 on, or 0: only there can a crash undo something.
 	fresh int
 }
 
-// play: what a job comes to.
-func (u *unit) play(j api.Job) api.Reply {
+// Do: what a job comes to, for those who have their jobs one at a time.
+func (u *Unit) Do(j api.Job) api.Reply {
 	fresh := u.fresh
-	u.fresh = nowhere
+	u.fresh = 0
 	switch j.Kind {
 	case api.Store, api.Fetch, api.Fill, api.Trim:
 		return u.playAt(j)
@@ -34,7 +31,7 @@ func (u *unit) play(j api.Job) api.Reply {
 }
 
 // playAt: what a job at a slot comes to.
-func (u *unit) playAt(j api.Job) api.Reply {
+func (u *Unit) playAt(j api.Job) api.Reply {
 	if j.Epoch != u.epoch {
 		return api.Reply{Code: api.ErrSealed}
 	}
@@ -53,19 +50,19 @@ func (u *unit) playAt(j api.Job) api.Reply {
 	return api.Reply{}
 }
 
-func (u *unit) store(addr int, b []byte) api.Reply {
+func (u *Unit) store(addr int, b []byte) api.Reply {
 	if len(b) > api.MaxBody {
 		return api.Reply{Code: api.ErrSize}
 	}
 	r := u.put(addr, data(bytes.Clone(b)))
 	if r.Code == api.OK {
-		u.fresh = addr
+		u.fresh = addr + 1
 	}
 	return r
 }
 
 // put: c stands in a slot from then on, if the slot is unwritten. What the slot has is told, if not.
-func (u *unit) put(addr int, c content) api.Reply {
+func (u *Unit) put(addr int, c content) api.Reply {
 	has := u.slots[addr]
 	if has == nil {
 		u.slots[addr] = c
@@ -76,7 +73,7 @@ func (u *unit) put(addr int, c content) api.Reply {
 	return r
 }
 
-func (u *unit) seal(epoch int) api.Reply {
+func (u *Unit) seal(epoch int) api.Reply {
 	if epoch <= u.epoch {
 		return api.Reply{Code: api.ErrSealed}
 	}
@@ -88,7 +85,7 @@ func (u *unit) seal(epoch int) api.Reply {
 }
 
 // tail: the least address above all that are written.
-func (u *unit) tail() int {
+func (u *Unit) tail() int {
 	for addr := len(u.slots); addr > 0; addr-- {
 		if u.slots[addr-1] != nil {
 			return addr
@@ -97,12 +94,12 @@ func (u *unit) tail() int {
 	return 0
 }
 
-// crash: of the frame that was put down last, at fresh, only so many bytes are there. A frame that lacks a byte never opens.
-func (u *unit) crash(fresh, size int) {
-	if fresh == nowhere {
+// crash: of the frame that was put down just ahead, in the slot fresh (counted from 1 on, 0: none was), only so many bytes are there. A frame that lacks a byte never opens.
+func (u *Unit) crash(fresh, size int) {
+	if fresh == 0 {
 		return
 	}
-	if d, ok := u.slots[fresh].(data); ok && size < d.frameSize() {
-		u.slots[fresh] = nil
+	if d, ok := u.slots[fresh-1].(data); ok && size < d.frameSize() {
+		u.slots[fresh-1] = nil
 	}
 }

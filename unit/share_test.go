@@ -172,3 +172,22 @@ func TestAnswersStay(t *testing.T) {
 		}
 	}
 }
+
+// P19.1: jobs of a Unit one at a time, in a list that is written over behind each of them, come to what they come to in a play.
+func TestUnitOneByOne(t *testing.T) {
+	random := rand.New(rand.NewSource(194))
+	for range 2000 {
+		l := randomJobs(random, random.Intn(60))
+		want, _ := Play(l)
+		var u Unit
+		for i, j := range l {
+			j.Data = roomy(j.Data, 1)
+			got := u.Do(j)
+			if !sameReply(got, want[i]) {
+				t.Fatalf("%s: job %d: %s; want %s", brief(l), i, brief(got), brief(want[i]))
+			}
+			spoil(j.Data)
+			spoil(got.Data)
+		}
+	}
+}
